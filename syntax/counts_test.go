@@ -47,6 +47,8 @@ func allCounted() []counted {
 		{body + "{", "7*p?", "-", "<1}=>p.", 8, 0},
 		{body + "{1<", "p?", "-", "}=>p.", 8, 0},
 		{body + "{1<", "1?", "+", "}=>p.", 8, 0},
+		{body + "{", "-1?", "+", "<1}=>p.", 8, 0},
+		{body + "{1<", "-1?", "-", "}=>p.", 8, 0},
 		{body + "{a+a+a+a+a+a+a+a<", "1?", "+", "}=>p.", 8, 0},
 		{"", "exception a? to b.", "", "", 512, 10},
 		{"", "total a?(b):c.", "", "", 64, 6},
@@ -107,6 +109,8 @@ func TestFaultsAheadOfCounts(t *testing.T) {
 	refused(t, terms+"+01<1}=>p.", api.ErrMoney, len(terms)+1)
 	refused(t, terms+"+rule<1}=>p.", api.ErrToken, len(terms)+1)
 	refused(t, terms+"+7*rule<1}=>p.", api.ErrCount, len(terms)+1)
+	refused(t, terms+"+-01<1}=>p.", api.ErrCount, len(terms)+1)
+	refused(t, terms+"--a<1}=>p.", api.ErrCount, len(terms)+1)
 	premises := "rule r of a at 2001-01-01:" + numbered("p?", ",", 16)
 	refused(t, premises+",X=>p.", api.ErrToken, len(premises)+1)
 	refused(t, premises+",X!=kind=>p.", api.ErrCount, len(premises)+1)

@@ -75,15 +75,9 @@ func (m *maker) bracketed(make func() string) []string {
 	return things
 }
 
-// cents: an amount from 0 on, and its text.
-func (m *maker) cents() (api.Money, string) {
+func (m *maker) money() api.Money {
 	amount := []api.Money{0, 1, 50, 100, 1000, 12345, money.Most - 1, money.Most}[m.chance.Intn(8)]
 	text, _ := money.Print(amount)
-	return amount, text
-}
-
-func (m *maker) money() api.Money {
-	amount, text := m.cents()
 	if amount != 0 && m.maybe() {
 		m.say("-")
 		amount = -amount
@@ -123,9 +117,7 @@ func (m *maker) term(minus bool) api.TermText {
 	}
 	switch m.chance.Intn(3) {
 	case 0:
-		amount, text := m.cents()
-		m.say(text)
-		return api.TermText{Value: api.Money(sign) * amount}
+		return api.TermText{Value: api.Money(sign) * m.money()}
 	case 1:
 		count := []int64{1, 2, 999, 1000}[m.chance.Intn(4)]
 		m.say(m.oneOf("", "0", "000")+strconv.FormatInt(count, 10), "*")

@@ -164,14 +164,10 @@ func (r *reader) integer(least, most int) int {
 }
 
 func (r *reader) money() api.Money {
+	sign := ""
 	if r.hasMark("-") {
-		return r.amountOf("-")
+		sign = "-"
 	}
-	return r.amountOf("")
-}
-
-// amountOf: of the sign that stood ahead, and the number that is next.
-func (r *reader) amountOf(sign string) api.Money {
 	t := r.ahead(0)
 	if t.Kind != api.TokenNumber {
 		r.fail(api.ErrToken)

@@ -99,11 +99,13 @@ func (r *reader) term() api.TermText {
 	return t
 }
 
-// plainTerm: a term as it stands, whatever the sign ahead of it. What follows a number says whether it is a factor.
+// plainTerm: a term as it stands, whatever the sign between it and the one ahead of it.
 func (r *reader) plainTerm() api.TermText {
-	counted := r.ahead(0).Kind == api.TokenNumber
-	if counted && !isMark(r.ahead(1), "*") {
-		return api.TermText{Value: r.amountOf("")}
+	// What follows a number says whether it is a factor; a factor has no - of its own.
+	numbered := r.ahead(0).Kind == api.TokenNumber
+	counted := numbered && isMark(r.ahead(1), "*")
+	if numbered && !counted || isMark(r.ahead(0), "-") {
+		return api.TermText{Value: r.money()}
 	}
 	t := api.TermText{Coef: 1}
 	if counted {

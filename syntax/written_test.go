@@ -35,7 +35,7 @@ args      = [ "(" ^argument @argument arg { "," @argument arg } ")" ]
 arg       = name | var
 guard     = "{" sum op sum "}"
 sum       = ^term @term term { ( "+" | "-" ) @term term }
-term      = uncounted | [ integer "*" ] name args
+term      = uncounted | "-" below | [ integer "*" ] name args
 op        = "<" | "<=" | "==" | "<>" | ">=" | ">"
 money     = amount | "-" below`
 
