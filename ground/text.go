@@ -5,6 +5,7 @@ import (
 	"strings"
 
 	"lexprior/api"
+	"lexprior/guards"
 	"lexprior/money"
 )
 
@@ -23,8 +24,20 @@ func writeMembers(text *strings.Builder, s api.Statute, members []int) {
 	}
 }
 
-// litText: of a literal that is no guard's.
-func litText(s api.Statute, l api.Lit) (string, api.Errno) {
+// litText: of a literal of that ground.
+func litText(s api.Statute, g api.Ground, l api.Lit) (string, api.Errno) {
+	if l.Guard == 0 {
+		return atomText(s, l)
+	}
+	// Guards are numbered from 1 on; a number below 1 is none's.
+	if l.Guard < 1 || l.Guard > len(g.Guards) {
+		return "", api.ErrLit
+	}
+	return guards.Print(s, g.Guards[l.Guard-1])
+}
+
+// atomText: of a literal that is no guard's.
+func atomText(s api.Statute, l api.Lit) (string, api.Errno) {
 	isNone := func(member int) bool { return !isPlace(s.Members, member) }
 	if !isPlace(s.Preds, l.Atom.Pred) || slices.ContainsFunc(l.Atom.Args, isNone) {
 		return "", api.ErrLit

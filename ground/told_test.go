@@ -99,7 +99,7 @@ func TestLitsOfOtherStatutes(t *testing.T) {
 	wantLit(t, odd, loose(worth(lit(1), 100)), 0, " = 1", api.OK)
 }
 
-// TestGuardTexts: as guards.Print tells them, with its errors; of a number that no guard has there is no literal.
+// TestGuardTexts: as guards.Print tells them. A number that no guard has, and a guard that has no text by this statute, is ErrLit.
 func TestGuardTexts(t *testing.T) {
 	s := parsed(t, house)
 	sum := []api.Term{{Coef: 1, Atom: api.Atom{Pred: income, Args: []int{ann}}}, {Coef: -2, Atom: api.Atom{Pred: 10, Args: []int{ben, hut}}}}
@@ -109,12 +109,16 @@ func TestGuardTexts(t *testing.T) {
 	}
 	wantLit(t, s, g, 0, "{income(ann) - 2*rent(ben, hut) < -5}", api.OK)
 	wantLit(t, s, g, 1, "{0 == 0}", api.OK)
-	wantLit(t, s, g, 2, "", api.ErrGuard)
-	wantLit(t, s, g, 3, "", api.ErrName)
-	for n := 4; n < 8; n++ {
+	for n := 2; n < 8; n++ {
 		wantLit(t, s, g, n, "", api.ErrLit)
 	}
-	wantLit(t, s, loose(worth(lit(bonus), math.MaxInt64)), 0, "", api.ErrOver)
+	few := s
+	few.Members = s.Members[:hut]
+	wantLit(t, few, g, 0, "", api.ErrLit)
+	wantLit(t, few, g, 1, "{0 == 0}", api.OK)
+	few.Preds = s.Preds[:income]
+	wantLit(t, few, g, 0, "", api.ErrLit)
+	wantLit(t, s, loose(worth(lit(bonus), math.MaxInt64)), 0, "", api.ErrLit)
 }
 
 func TestRuleNames(t *testing.T) {
